@@ -935,6 +935,88 @@ func TestP5_2_AtTheGreatestLimits(t *testing.T) {
 	}
 }
 
+// Of a Many of MaxArgs arguments, of MaxBulk bytes each: how many bytes its first line has, an argument's, and an argument with its line's end.
+const (
+	longest   = len("*65536\r\n")
+	longHead  = len("$1048576\r\n")
+	longWhole = longHead + api.MaxBulk + len("\r\n")
+)
+
+// behindLong is the Input behind so many of that Many's arguments, all of which are one text.
+func behindLong(n int, arg string) api.Input {
+	return api.Input{Args: slices.Repeat([]string{arg}, n), Left: api.MaxArgs - n, Size: longest + n*longWhole}
+}
+
+// Whatever number of bytes the limits let an Input have, its Size is all of them: 2047 and 2048 of these arguments are just below, and above, 2^31 bytes, 4095 and 4096 those of 2^32, 65535 the most.
+func TestP5_2_SizesOfAnyNumberOfArguments(t *testing.T) {
+	arg := strings.Repeat("ab\r\n", api.MaxBulk/4)
+	head := "$1048576\r\n"
+	for _, n := range []int{1, 2, 1000, 2046, 2047, 2048, 2049, 4095, 4096, 4097, 32768, 65533, 65534, 65535} {
+		in := behindLong(n, arg)
+		if x := feed(in, "", wide); !same(x, left(in)) {
+			t.Fatalf("Feed of nothing behind %d arguments = %s; want %s", n, told(x), told(left(in)))
+		}
+		begun := in
+		begun.Body, begun.Need, begun.Size = true, api.MaxBulk, in.Size+longHead
+		if x := feed(in, head, wide); !same(x, left(begun)) {
+			t.Errorf("behind %d arguments, and a first line: %s; want %s", n, told(x), told(left(begun)))
+		}
+		begun.Rest = arg + "\r"
+		if x := feed(in, head+arg+"\r", wide); !same(x, left(begun)) {
+			t.Errorf("behind %d arguments, and one without its last byte: %s; want %s", n, told(x), told(left(begun)))
+		}
+		want := left(behindLong(n+1, arg))
+		if n+1 == api.MaxArgs {
+			want = got(api.Request{Args: want.in.Args, Size: want.in.Size})
+		}
+		if x := feed(in, head+arg+"\r\n", wide); !same(x, want) {
+			t.Errorf("behind %d arguments, and one: %s; want %s", n, told(x), told(want))
+		}
+		if x := feed(begun, "\n", wide); !same(x, want) {
+			t.Errorf("behind %d arguments, and one, byte 10 by itself: %s; want %s", n, told(x), told(want))
+		}
+	}
+}
+
+// The greatest request that the limits let, the last argument of which comes in all kinds of pieces, is told with all its bytes; so is what is behind it.
+func TestP5_5_TheGreatestSizeInAnyPieces(t *testing.T) {
+	arg := strings.Repeat("x", api.MaxBulk)
+	last := "$1048576\r\n" + arg + "\r\n"
+	all := slices.Repeat([]string{arg}, api.MaxArgs)
+	want := got(request(longest+api.MaxArgs*longWhole, all...), request(6, "PING"))
+	for _, size := range []int{1, 2, 9, 10, 11, 4099, api.MaxBulk, api.MaxBulk + 10, api.MaxBulk + 11, len(last), len(last) + 3, len(last) + 6} {
+		pieces := chunks(last+"PING\r\n", size)
+		if size < 4099 {
+			// Only the bytes where something turns by themselves: each piece copies all arguments.
+			pieces = slices.Concat(chunks(last[:longHead+11], size), []string{last[longHead+11 : len(last)-5]}, chunks(last[len(last)-5:]+"PING\r\n", size))
+		}
+		x := left(behindLong(api.MaxArgs-1, arg))
+		for _, b := range pieces {
+			y := feed(x.in, b, wide)
+			x = fed{y.in, append(x.whole, y.whole...), y.e}
+		}
+		if !same(x, want) {
+			t.Errorf("the last of %d arguments, in %d pieces: %s; want %s", len(all), len(pieces), told(x), told(want))
+		}
+	}
+}
+
+// A Size that Feed never told is not brought out of its type's range by what comes.
+func TestP5_2_SizesThatNobodyTold(t *testing.T) {
+	for back := range 12 {
+		in := api.Input{Left: 2, Size: math.MaxInt - back}
+		x := feed(in, "$1\r\na\r\n", wide)
+		if x.in.Size < in.Size-7 || x.in.Left != 1 || x.e != api.OK {
+			t.Errorf("Feed behind a Size of %d = %s", in.Size, told(x))
+		}
+		in.Left = 1
+		x = feed(in, "$1\r\na\r\n", wide)
+		if len(x.whole) != 1 || x.whole[0].Size < in.Size-7 || x.e != api.OK {
+			t.Errorf("Feed behind a Size of %d, and one argument left, = %s", in.Size, told(x))
+		}
+	}
+}
+
 func TestP5_2_LongInputsByteByByte(t *testing.T) {
 	wantBytewise := func(s string, want fed) {
 		t.Helper()
