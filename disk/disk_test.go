@@ -151,7 +151,7 @@ func (m *model) sync(name string) api.Errno {
 	return api.OK
 }
 
-// rename takes the file that counts out of its stack, and makes it the only one of the other.
+// rename lets two stacks go, and makes the file that counted in the one the only one of the other.
 func (m *model) rename(from, to string) api.Errno {
 	if !m.there(from) {
 		return api.ErrNone
@@ -160,7 +160,7 @@ func (m *model) rename(from, to string) api.Errno {
 		return api.ErrDisk
 	}
 	one := m.files[from][0]
-	m.files[from] = m.files[from][1:]
+	delete(m.files, from)
 	m.files[to] = stack{one}
 	return api.OK
 }
@@ -502,7 +502,9 @@ func TestP16_2_RenameGivesAnothersName(t *testing.T) {
 		{"to its own name", abc, "b", "b", abc, api.OK},
 		{"to a name of some", of(c, b, a, c, c), "a", "c", of(b, file("c", "12", 1)), api.OK},
 		{"to its own name, of some", of(b, a, c, file("a", "3", 0)), "a", "a", of(b, a, c), api.OK},
-		{"the first of a name", of(b, a, file("a", "3", 0)), "a", "d", of(b, file("d", "12", 1), file("a", "3", 0)), api.OK},
+		{"the first of a name", of(b, a, file("a", "3", 0)), "a", "d", of(b, file("d", "12", 1)), api.OK},
+		{"the first of a name, to one that is there", of(b, a, file("b", "q", 1), file("a", "3", 1), c), "a", "b", of(file("b", "12", 1), c), api.OK},
+		{"a fault, of some of a name", faulty(of(a, file("a", "3", 0)), rename("a")), "a", "d", of(a, file("a", "3", 0)), api.ErrDisk},
 		{"a fault", faulty(abc, rename("a")), "a", "b", abc, api.ErrDisk},
 		{"a fault, to its own name", faulty(abc, rename("a")), "a", "a", abc, api.ErrDisk},
 		{"a fault of the other one", faulty(abc, rename("b")), "a", "b", faulty(of(file("b", "12", 1), c), rename("b")), api.OK},
@@ -794,6 +796,36 @@ func TestP16_6_NoCallTurnsAnotherFile(t *testing.T) {
 					t.Fatalf("%s %q of %v: %q is %q, of which %q is safe", what, name, d, other, is, disk.Safe(got, other))
 				}
 			}
+		}
+	}
+}
+
+// counting is a disk of the files that count alone, in order.
+func counting(d api.Disk) api.Disk {
+	alone := api.Disk{Faults: d.Faults}
+	for _, f := range d.Files {
+		if !slices.ContainsFunc(alone.Files, func(g api.File) bool { return g.Name == f.Name }) {
+			alone.Files = append(alone.Files, f)
+		}
+	}
+	return alone
+}
+
+func TestP16_6_WhatDoesNotCountIsToldByNoCall(t *testing.T) {
+	next := rolled(51)
+	for range 5000 {
+		d := thrown(next)
+		alone := counting(d)
+		for range 3 {
+			if !slices.Equal(disk.Names(d), disk.Names(alone)) {
+				t.Fatalf("%v, %v: %q, %q", d, alone, disk.Names(d), disk.Names(alone))
+			}
+			name, to, i := thrownName(next), thrownName(next), next()%6
+			a, b := everyCall(d, name, to)[i], everyCall(alone, name, to)[i]
+			if !disk.Same(a, b) {
+				t.Fatalf("call %d of %q, %q: %v became %v, %v became %v", i, name, to, d, a, alone, b)
+			}
+			d, alone = a, b
 		}
 	}
 }
